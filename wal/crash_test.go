@@ -81,7 +81,7 @@ func TestEveryArm(t *testing.T) {
 	for after := range 8 {
 		for keep := -1; keep < 13; keep++ {
 			for again := range 8 {
-				for kept := -1; kept < 13; kept += 2 {
+				for kept := -1; kept < 13; kept++ {
 					v := newLife(t, 99)
 					v.disk.Arm(after, keep)
 					v.disk.Arm(again, kept)
