@@ -8,7 +8,7 @@ import (
 	"usher/api"
 )
 
-// The ledger holds DOC.md's promises of the whole against the steps of a run, one by one: what was asked, what went out, and what was kept ahead of it and behind it. It looks at nothing but what the program itself has answered, for every beginning of the script.
+// The ledger holds DOC.md's promises of the whole against the steps of a run, one by one: what was asked, what went out, and what was kept ahead of it and behind it. What went out and what is kept is the program's own answer for every beginning of the script. The model lends it no state, only which draws wait, and its reading of a request: who asks, and whether a question is well-formed.
 
 // An entry is a step of a run; of a request also what it asks.
 type entry struct {
